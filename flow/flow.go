@@ -1,0 +1,69 @@
+// Package flow: workflow nets, a judge of them, and a compiler of processes: see DOC.md.
+package flow
+
+// Errno is what a call answers: OK or the reason for a refusal.
+type Errno int
+
+const (
+	OK       Errno = 0
+	ErrLong  Errno = 1  // a text above its bound
+	ErrNet   Errno = 2  // no net
+	ErrShape Errno = 3  // a transition puts to the start or takes from the end
+	ErrSign  Errno = 4  // no transition's sign
+	ErrIdle  Errno = 5  // the transition is not enabled
+	ErrSpill Errno = 6  // a place would hold a second token
+	ErrNever Errno = 7  // there is no such run
+	ErrWord  Errno = 8  // no word
+	ErrProc  Errno = 9  // no process
+	ErrLarge Errno = 10 // the process has too many nodes
+)
+
+// The verdicts of Judge.
+const (
+	Sound    = 1
+	Spills   = 2
+	Improper = 3
+	Stuck    = 4
+	Dead     = 5
+)
+
+// Check tells whether a text is a net (P3).
+func Check(net string) (Errno, int) {
+	_, errno, place := readNet(net)
+	return errno, place
+}
+
+// Fire plays a run (P4).
+func Fire(net string, run string) (string, Errno, int) {
+	// A net too long is found by readNet; a run too long goes ahead of its other errors.
+	if len(run) > maxRun {
+		return "", ErrLong, 0
+	}
+	read, errno, place := readNet(net)
+	if errno != OK {
+		return "", errno, place
+	}
+	marking, errno, place := playRun(read, run)
+	if errno != OK {
+		return "", errno, place
+	}
+	return placesOf(marking), OK, 0
+}
+
+// Judge tells whether a net is sound, and if it is not, shows why (P5).
+func Judge(net string) (int, string, Errno) { return 0, "", 0 }
+
+// Finish tells the way from behind a run to the end (P6).
+func Finish(net string, run string) (string, Errno) { return "", 0 }
+
+// Enable tells a run to a transition (P7).
+func Enable(net string, step string) (string, Errno) { return "", 0 }
+
+// Plays tells whether a net has a word (P9).
+func Plays(net string, word string) (bool, Errno) { return false, 0 }
+
+// Accepts tells whether a process has a word (P10).
+func Accepts(proc string, word string) (bool, Errno, int) { return false, 0, 0 }
+
+// Compile answers a sound net with the process's words (P11).
+func Compile(proc string) (string, Errno, int) { return "", 0, 0 }
