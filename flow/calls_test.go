@@ -1,6 +1,8 @@
 package flow_test
 
 import (
+	"fmt"
+	"slices"
 	"strings"
 	"testing"
 
@@ -90,7 +92,7 @@ func TestP1LongAheadOfAllElse(t *testing.T) {
 
 var oddTexts = []string{
 	"", "\x00", "\xff\xfe", " ", "A", "AB", "AA", "AB;", "AB;a", "AB;aA", "AB;aA>", "AB;aA>B", "AB;aA>A", "AB;aB>C",
-	example, example + ";", "PA;-P>A", "AD;aA>BC;bB>D;cC>D", "0", "1", "01", "012", "0123", "F", "G", "f", "a", "abc",
+	example, example + ";", "AB;aA>CD;bC>D;cD>E;dE>B", "AB;aA>B;bA>C;cC>D", "AB;aA>B;bC>B", "AB;aA>BC;bC>D", "PA;-P>A", "AD;aA>BC;bB>D;cC>D", "0", "1", "01", "012", "0123", "F", "G", "f", "a", "abc",
 	".ab", "+ab", "&ab", "*a", "*", ".", "\u00e9", ";;;;", ">>>>", strings.Repeat("A", 160), strings.Repeat("A", 161),
 	strings.Repeat("0", 65536), strings.Repeat("0", 65537), strings.Repeat("a", 9), strings.Repeat("*", 25),
 	strings.Repeat("*", 100000),
@@ -117,38 +119,71 @@ func TestP1OtherResultsBesideAnError(t *testing.T) {
 		if (checkErrno == flow.OK || checkErrno == flow.ErrLong) && checkPlace != 0 {
 			t.Errorf("Check(%.60q) = %d, %d, want the place 0", a, checkErrno, checkPlace)
 		}
+		verdict, text, errno := flow.Judge(a)
+		if errno != checkErrno || errno != flow.OK && (verdict != 0 || text != "") {
+			t.Errorf("Judge(%.60q) = %d, %q, %d, but Check answers %d", a, verdict, text, errno, checkErrno)
+		}
 		for _, b := range oddTexts {
-			marking, errno, place := flow.Fire(a, b)
-			if (errno == flow.OK) != (marking != "") {
-				t.Errorf("Fire(%.60q, %.60q) = %q beside %d", a, b, marking, errno)
-			}
-			if (errno == flow.OK || errno == flow.ErrLong) && place != 0 {
-				t.Errorf("Fire(%.60q, %.60q) = %d, %d, want the place 0", a, b, errno, place)
-			}
-			if errno != flow.ErrLong && checkErrno != flow.OK && (errno != checkErrno || place != checkPlace) {
-				t.Errorf("Fire(%.60q, %.60q) = %d, %d, but Check answers %d, %d", a, b, errno, place, checkErrno, checkPlace)
-			}
+			checkFireBesideAnError(t, a, b)
+			checkSearchesBesideAnError(t, a, b)
 		}
 	}
 }
 
+func checkFireBesideAnError(t *testing.T, net string, run string) {
+	t.Helper()
+	checkErrno, checkPlace := flow.Check(net)
+	marking, errno, place := flow.Fire(net, run)
+	if (errno == flow.OK) != (marking != "") {
+		t.Errorf("Fire(%.60q, %.60q) = %q beside %d", net, run, marking, errno)
+	}
+	if (errno == flow.OK || errno == flow.ErrLong) && place != 0 {
+		t.Errorf("Fire(%.60q, %.60q) = %d, %d, want the place 0", net, run, errno, place)
+	}
+	if errno != flow.ErrLong && checkErrno != flow.OK && (errno != checkErrno || place != checkPlace) {
+		t.Errorf("Fire(%.60q, %.60q) = %d, %d, but Check answers %d, %d", net, run, errno, place, checkErrno, checkPlace)
+	}
+}
+
+func checkSearchesBesideAnError(t *testing.T, net string, run string) {
+	t.Helper()
+	_, fireErrno, _ := flow.Fire(net, run)
+	text, errno := flow.Finish(net, run)
+	if errno != fireErrno && (fireErrno != flow.OK || errno != flow.ErrNever) || errno != flow.OK && text != "" {
+		t.Errorf("Finish(%.60q, %.60q) = %q, %d, but Fire answers %d", net, run, text, errno, fireErrno)
+	}
+	text, errno = flow.Enable(net, run)
+	if (errno == flow.OK) != (text != "") {
+		t.Errorf("Enable(%.60q, %.60q) = %q beside %d", net, run, text, errno)
+	}
+}
+
+// answersAt is what all calls that are built answer at two texts, written as one.
+func answersAt(a string, b string) string {
+	errno, place := flow.Check(a)
+	marking, fireErrno, step := flow.Fire(a, b)
+	verdict, why, judgeErrno := flow.Judge(a)
+	way, finishErrno := flow.Finish(a, b)
+	run, enableErrno := flow.Enable(a, b)
+	return fmt.Sprint(errno, place, "|", marking, fireErrno, step, "|", verdict, why, judgeErrno, "|",
+		way, finishErrno, "|", run, enableErrno)
+}
+
 func TestP2SameAnswerAgain(t *testing.T) {
-	checks := make([]checkCase, len(oddTexts))
-	var fires []fireCase
-	for i, a := range oddTexts {
-		errno, place := flow.Check(a)
-		checks[i] = checkCase{a, errno, place}
+	answers := map[[2]string]string{}
+	for _, a := range oddTexts {
 		for _, b := range oddTexts {
-			marking, errno, place := flow.Fire(a, b)
-			fires = append(fires, fireCase{a, b, marking, errno, place})
+			answers[[2]string{a, b}] = answersAt(a, b)
 		}
 	}
 	for range 2 {
-		// backwards, so that each call now stands behind others than before
-		for i := len(fires) - 1; i >= 0; i-- {
-			runFireCases(t, fires[i:i+1])
-			runCheckCases(t, checks[i%len(checks):i%len(checks)+1])
-			runFireCases(t, fires[i:i+1])
+		// the other way round, so that each call now stands behind others than before
+		for _, b := range slices.Backward(oddTexts) {
+			for _, a := range slices.Backward(oddTexts) {
+				if again := answersAt(a, b); again != answers[[2]string{a, b}] {
+					t.Errorf("at %.60q and %.60q: %s, but before: %s", a, b, again, answers[[2]string{a, b}])
+				}
+			}
 		}
 	}
 }

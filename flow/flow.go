@@ -35,15 +35,7 @@ func Check(net string) (Errno, int) {
 
 // Fire plays a run (P4).
 func Fire(net string, run string) (string, Errno, int) {
-	// A net too long is found by readNet; a run too long goes ahead of its other errors.
-	if len(run) > maxRun {
-		return "", ErrLong, 0
-	}
-	read, errno, place := readNet(net)
-	if errno != OK {
-		return "", errno, place
-	}
-	marking, errno, place := playRun(read, run)
+	_, marking, errno, place := playNet(net, run)
 	if errno != OK {
 		return "", errno, place
 	}
@@ -51,13 +43,53 @@ func Fire(net string, run string) (string, Errno, int) {
 }
 
 // Judge tells whether a net is sound, and if it is not, shows why (P5).
-func Judge(net string) (int, string, Errno) { return 0, "", 0 }
+func Judge(net string) (int, string, Errno) {
+	read, errno, _ := readNet(net)
+	if errno != OK {
+		return 0, "", errno
+	}
+	verdict, text := judgeNet(read)
+	return verdict, text, OK
+}
 
 // Finish tells the way from behind a run to the end (P6).
-func Finish(net string, run string) (string, Errno) { return "", 0 }
+func Finish(net string, run string) (string, Errno) {
+	read, marking, errno, _ := playNet(net, run)
+	if errno != OK {
+		return "", errno
+	}
+	found := explore(read.trans, marking)
+	at := found.endVisit(read)
+	if at < 0 {
+		return "", ErrNever
+	}
+	return string(found.runTo(at)), OK
+}
 
 // Enable tells a run to a transition (P7).
-func Enable(net string, step string) (string, Errno) { return "", 0 }
+func Enable(net string, step string) (string, Errno) {
+	// A net too long is found by readNet; a step too long goes ahead of its other errors.
+	if len(step) > maxRun {
+		return "", ErrLong
+	}
+	read, errno, _ := readNet(net)
+	if errno != OK {
+		return "", errno
+	}
+	if len(step) != 1 {
+		return "", ErrSign
+	}
+	number := transitionOf(read, step[0])
+	if number < 0 {
+		return "", ErrSign
+	}
+	found := explore(read.trans, placeBit(read.start))
+	at := found.firstStep(read.trans[number])
+	if at < 0 {
+		return "", ErrNever
+	}
+	return found.runAndStep(at, number), OK
+}
 
 // Plays tells whether a net has a word (P9).
 func Plays(net string, word string) (bool, Errno) { return false, 0 }
