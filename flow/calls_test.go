@@ -93,7 +93,7 @@ func TestP1LongAheadOfAllElse(t *testing.T) {
 var oddTexts = []string{
 	"", "\x00", "\xff\xfe", " ", "A", "AB", "AA", "AB;", "AB;a", "AB;aA", "AB;aA>", "AB;aA>B", "AB;aA>A", "AB;aB>C",
 	example, example + ";", "AB;aA>CD;bC>D;cD>E;dE>B", "AB;aA>B;bA>C;cC>D", "AB;aA>B;bC>B", "AB;aA>BC;bC>D", "PA;-P>A", "AD;aA>BC;bB>D;cC>D", "0", "1", "01", "012", "0123", "F", "G", "f", "a", "abc",
-	".ab", "+ab", "&ab", "*a", "*", ".", "\u00e9", ";;;;", ">>>>", strings.Repeat("A", 160), strings.Repeat("A", 161),
+	".ab", "+ab", "&ab", "*a", "*", ".", "b", "ba", "a-", "-", ".a", "*-", "*******a", "********a", "AB;-A>B", "\u00e9", ";;;;", ">>>>", strings.Repeat("A", 160), strings.Repeat("A", 161),
 	strings.Repeat("0", 65536), strings.Repeat("0", 65537), strings.Repeat("a", 9), strings.Repeat("*", 25),
 	strings.Repeat("*", 100000),
 }
@@ -123,9 +123,14 @@ func TestP1OtherResultsBesideAnError(t *testing.T) {
 		if errno != checkErrno || errno != flow.OK && (verdict != 0 || text != "") {
 			t.Errorf("Judge(%.60q) = %d, %q, %d, but Check answers %d", a, verdict, text, errno, checkErrno)
 		}
+		net, errno, place := flow.Compile(a)
+		if (errno == flow.OK) != (net != "") || errno != flow.ErrProc && place != 0 {
+			t.Errorf("Compile(%.60q) = %q, %d, %d", a, net, errno, place)
+		}
 		for _, b := range oddTexts {
 			checkFireBesideAnError(t, a, b)
 			checkSearchesBesideAnError(t, a, b)
+			checkWordsBesideAnError(t, a, b)
 		}
 	}
 }
@@ -158,15 +163,41 @@ func checkSearchesBesideAnError(t *testing.T, net string, run string) {
 	}
 }
 
-// answersAt is what all calls that are built answer at two texts, written as one.
+// checkWordsBesideAnError takes a text for a net as well as for a process.
+func checkWordsBesideAnError(t *testing.T, text string, word string) {
+	t.Helper()
+	checkErrno, _ := flow.Check(text)
+	plays, errno := flow.Plays(text, word)
+	if errno != flow.OK && plays {
+		t.Errorf("Plays(%.60q, %.60q) = %v beside %d", text, word, plays, errno)
+	}
+	if errno != flow.ErrLong && checkErrno != flow.OK && errno != checkErrno {
+		t.Errorf("Plays(%.60q, %.60q) = %d, but Check answers %d", text, word, errno, checkErrno)
+	}
+	_, compileErrno, compilePlace := flow.Compile(text)
+	accepts, errno, place := flow.Accepts(text, word)
+	if errno != flow.OK && accepts || errno != flow.ErrProc && errno != flow.ErrWord && place != 0 {
+		t.Errorf("Accepts(%.60q, %.60q) = %v beside %d, %d", text, word, accepts, errno, place)
+	}
+	if errno != flow.ErrLong && compileErrno != flow.OK && (errno != compileErrno || place != compilePlace) {
+		t.Errorf("Accepts(%.60q, %.60q) = %d, %d, but Compile answers %d, %d",
+			text, word, errno, place, compileErrno, compilePlace)
+	}
+}
+
+// answersAt is what all calls answer at two texts, written as one.
 func answersAt(a string, b string) string {
 	errno, place := flow.Check(a)
 	marking, fireErrno, step := flow.Fire(a, b)
 	verdict, why, judgeErrno := flow.Judge(a)
 	way, finishErrno := flow.Finish(a, b)
 	run, enableErrno := flow.Enable(a, b)
+	plays, playsErrno := flow.Plays(a, b)
+	accepts, acceptsErrno, acceptsPlace := flow.Accepts(a, b)
+	net, compileErrno, compilePlace := flow.Compile(a)
 	return fmt.Sprint(errno, place, "|", marking, fireErrno, step, "|", verdict, why, judgeErrno, "|",
-		way, finishErrno, "|", run, enableErrno)
+		way, finishErrno, "|", run, enableErrno, "|", plays, playsErrno, "|",
+		accepts, acceptsErrno, acceptsPlace, "|", net, compileErrno, compilePlace)
 }
 
 func TestP2SameAnswerAgain(t *testing.T) {

@@ -92,10 +92,43 @@ func Enable(net string, step string) (string, Errno) {
 }
 
 // Plays tells whether a net has a word (P9).
-func Plays(net string, word string) (bool, Errno) { return false, 0 }
+func Plays(net string, word string) (bool, Errno) {
+	// A net too long is found by readNet; a word too long goes ahead of its other errors.
+	if len(word) > maxWord {
+		return false, ErrLong
+	}
+	read, errno, _ := readNet(net)
+	if errno != OK {
+		return false, errno
+	}
+	if firstNoLetter(word) < len(word) {
+		return false, ErrWord
+	}
+	return playsWord(read, word), OK
+}
 
 // Accepts tells whether a process has a word (P10).
-func Accepts(proc string, word string) (bool, Errno, int) { return false, 0, 0 }
+func Accepts(proc string, word string) (bool, Errno, int) {
+	// A process too long is found by readProcess; a word too long goes ahead of its other errors.
+	if len(word) > maxWord {
+		return false, ErrLong, 0
+	}
+	errno, place := readProcess(proc)
+	if errno != OK {
+		return false, errno, place
+	}
+	place = firstNoLetter(word)
+	if place < len(word) {
+		return false, ErrWord, place
+	}
+	return acceptsWord(proc, word), OK, 0
+}
 
 // Compile answers a sound net with the process's words (P11).
-func Compile(proc string) (string, Errno, int) { return "", 0, 0 }
+func Compile(proc string) (string, Errno, int) {
+	errno, place := readProcess(proc)
+	if errno != OK {
+		return "", errno, place
+	}
+	return compileProcess(proc), OK, 0
+}

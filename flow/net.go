@@ -10,10 +10,14 @@ const (
 	lastPlace  = 'P'
 )
 
+// silent is the label of a transition that adds nothing to a word.
+const silent = '-'
+
 // A transition keeps its places as sets: ints with a bit for each place, that
 // of the first place the lowest, so that a marking and a transition's places
 // meet in one operation.
 type transition struct {
+	label byte
 	takes int
 	puts  int
 }
@@ -30,7 +34,7 @@ func isPlace(b byte) bool {
 }
 
 func isLabel(b byte) bool {
-	return b == '-' || (b >= 'a' && b <= 'z')
+	return b == silent || isLetter(b)
 }
 
 // placeBit is the set of one place; a byte that is no place gives the empty set.
@@ -93,7 +97,7 @@ func readTransition(text string, at int) (transition, int, bool) {
 		return transition{}, arrow, false
 	}
 	puts, behind := readPlaces(text, arrow+1)
-	return transition{takes: takes, puts: puts}, behind, puts != 0
+	return transition{label: text[at], takes: takes, puts: puts}, behind, puts != 0
 }
 
 // readPlaces reads places as long as they rise, and tells their set and the

@@ -24,15 +24,41 @@ type search struct {
 func explore(trans []transition, from int) search {
 	found := search{seen: make([]bool, markingCount)}
 	found.visit(from, 0, 0)
-	for at := 0; at < len(found.visits); at++ {
-		for number := 0; number < len(trans); number++ {
-			next, errno := fireAt(trans[number], found.visits[at].marking)
-			if errno == OK {
-				found.visit(next, at, number)
-			}
+	found.spread(trans)
+	return found
+}
+
+// spread goes on from all that has been visited.
+func (s *search) spread(trans []transition) {
+	for at := 0; at < len(s.visits); at++ {
+		marking := s.visits[at].marking
+		s.visitNext(trans, marking, at)
+	}
+}
+
+// stepOn visits all that one step leads to from what has been visited, in its
+// stead: the visits no longer tell runs then.
+func (s *search) stepOn(trans []transition) {
+	before := s.visits
+	s.visits = nil
+	for at := 0; at < len(before); at++ {
+		if s.has(before[at].marking) {
+			s.seen[before[at].marking] = false
 		}
 	}
-	return found
+	for at := 0; at < len(before); at++ {
+		s.visitNext(trans, before[at].marking, 0)
+	}
+}
+
+// visitNext visits all that one step leads to.
+func (s *search) visitNext(trans []transition, marking int, before int) {
+	for number := 0; number < len(trans); number++ {
+		next, errno := fireAt(trans[number], marking)
+		if errno == OK {
+			s.visit(next, before, number)
+		}
+	}
 }
 
 func (s *search) visit(marking int, before int, number int) {
